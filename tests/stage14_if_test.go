@@ -991,7 +991,20 @@ func TestIfsThatAreRefusedLeaveNothingBehind(t *testing.T) {
 // What must hold is a closure: a function literal that holds on to what its
 // function was handed, and that EvalIf reaches.
 func TestWhatMustHoldIsAClosure(t *testing.T) {
-	f, err := parser.ParseFile(token.NewFileSet(), "../impl/l14_if.go", nil, parser.SkipObjectResolution)
+	closures := 0
+	for _, fn := range functionsReached(t, "../impl/l14_if.go", "EvalIf") {
+		closures += closuresIn(fn)
+	}
+	if closures == 0 {
+		t.Error("l14_if.go: EvalIf reaches no closure")
+	}
+}
+
+// functionsReached has the functions of a file that this one names, those that
+// they name, and so on.
+func functionsReached(t *testing.T, file string, from string) []*ast.FuncDecl {
+	t.Helper()
+	f, err := parser.ParseFile(token.NewFileSet(), file, nil, parser.SkipObjectResolution)
 	if err != nil {
 		t.Fatal(err)
 	}
@@ -1001,22 +1014,20 @@ func TestWhatMustHoldIsAClosure(t *testing.T) {
 			decls[fn.Name.Name] = fn
 		}
 	}
-	closures, work, done := 0, []string{"EvalIf"}, map[string]bool{}
+	reached, work := []*ast.FuncDecl{}, []string{from}
 	for len(work) > 0 {
-		fn, name := decls[work[0]], work[0]
+		fn := decls[work[0]]
+		delete(decls, work[0])
 		work = work[1:]
-		if fn == nil || done[name] {
+		if fn == nil {
 			continue
 		}
-		done[name] = true
-		closures += closuresIn(fn)
+		reached = append(reached, fn)
 		for other := range names(fn) {
 			work = append(work, other)
 		}
 	}
-	if closures == 0 {
-		t.Error("l14_if.go: EvalIf reaches no closure")
-	}
+	return reached
 }
 
 func closuresIn(fn *ast.FuncDecl) int {
